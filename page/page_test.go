@@ -101,6 +101,25 @@ func TestPagesAreTheFile(t *testing.T) {
 	}
 }
 
+// Size is what New was given, whatever the file holds, and telling it reads nothing; of no Pages it is 0.
+func TestSize(t *testing.T) {
+	for _, size := range []int{1, 2, 5, 6, 9, 10, 11, api.MaxPage} {
+		for _, n := range []int{0, 1, 10, api.MaxBase} {
+			p := open(t, letters(n), size)
+			p.Fault([]int{0, 1})
+			if p.Size() != size {
+				t.Errorf("%d by %d: Size = %d", n, size, p.Size())
+			}
+			wantReads(t, p)
+		}
+	}
+	for _, p := range []*Pages{nil, {}} {
+		if p.Size() != 0 {
+			t.Errorf("none: Size = %d", p.Size())
+		}
+	}
+}
+
 // P3.1: sizes and files at their bounds, and beyond.
 func TestNewBounds(t *testing.T) {
 	for _, c := range []struct {
